@@ -134,12 +134,59 @@ func TestConjLaws(t *testing.T) {
 	}
 }
 
+// missing reports whether a name in a node is none of those of resolve_test.go, by the words of the chapter.
+func missing(n api.Node) bool {
+	isVar := slices.ContainsFunc(declared(), func(d api.Decl) bool { return d.Name == n.Name })
+	at := slices.IndexFunc(signed(), func(s api.Sig) bool { return s.Name == n.Name })
+	if n.Op == api.Var && !isVar && (at < 0 || len(signed()[at].Args) > 0) || n.Op == api.App && at < 0 {
+		return true
+	}
+	return slices.ContainsFunc(n.Kids, missing)
+}
+
+// spoilNames changes some names and numbers of kids of a raw node.
+func (r *source) spoilNames(n api.Node) api.Node {
+	kids := n.Kids
+	n.Kids = nil
+	for _, k := range kids {
+		n.Kids = append(n.Kids, r.spoilNames(k))
+	}
+	switch {
+	case r.below(12) == 0 && (n.Op == api.Var || n.Op == api.App):
+		n.Name = []string{"w", "late", "zero", "yes", "p"}[r.below(5)]
+	case r.below(12) == 0 && n.Op == api.App:
+		n.Kids = append(n.Kids, raw("x"))
+	case r.below(12) == 0 && len(n.Kids) > 0:
+		n.Kids = n.Kids[1:]
+	}
+	return n
+}
+
+func TestResolveErrorLaws(t *testing.T) {
+	r := &source{state: 7}
+	seen := map[api.Errno]int{}
+	for range 4000 {
+		n := r.spoilNames(r.raw(sorts[r.below(5)], 1+r.below(4)))
+		_, e := logic.Resolve(n, declared(), signed())
+		seen[e]++
+		if (e == api.ErrNone) != missing(n) {
+			t.Fatalf("P1.6, R2: Resolve(%v) is %d", n, e)
+		}
+	}
+	if seen[api.OK] < 100 || seen[api.ErrNone] < 100 || seen[api.ErrForm] < 100 {
+		t.Errorf("too few of a kind: %v", seen)
+	}
+}
+
 func TestResolveLaws(t *testing.T) {
 	r := &source{state: 4}
 	good := 0
 	for range 20000 {
 		n := r.any(3)
 		got, e := logic.Resolve(n, declared(), signed())
+		if (e == api.ErrNone) != missing(n) {
+			t.Errorf("P1.6, R2: Resolve(%v) is %d", n, e)
+		}
 		switch {
 		case e == api.OK:
 			good++

@@ -20,10 +20,9 @@ func Resolve(n api.Node, vars []api.Decl, sigs []api.Sig) (api.Node, api.Errno) 
 	for _, s := range sigs {
 		keepFirst(m.sigs, s.Name, s)
 	}
-	for _, k := range walk(n) {
-		if e := m.look(k); e != api.OK {
-			return api.Node{}, e
-		}
+	// A missing name anywhere counts ahead of every wrong form, wherever that is (R2): nothing else is looked at before all names are.
+	if !m.allNamed(n) {
+		return api.Node{}, api.ErrNone
 	}
 	r := m.sorted(n)
 	if Check(r, 0) != api.OK || !m.argsFit(r) {
@@ -32,23 +31,27 @@ func Resolve(n api.Node, vars []api.Decl, sigs []api.Sig) (api.Node, api.Errno) 
 	return r, api.OK
 }
 
-// look returns the error of a node's name, or of the number of its kids, whatever its kids are.
-func (m meanings) look(n api.Node) api.Errno {
-	switch n.Op {
-	case api.Var:
-		if _, ok := m.vars[n.Name]; !ok && !m.constant(n.Name) {
-			return api.ErrNone
-		}
-	case api.App:
-		s, ok := m.sigs[n.Name]
-		if !ok {
-			return api.ErrNone
-		}
-		if len(s.Args) != len(n.Kids) {
-			return api.ErrForm
+// allNamed reports whether the names of all variables and applications in a node stand for something.
+func (m meanings) allNamed(n api.Node) bool {
+	for _, k := range walk(n) {
+		if !m.named(k) {
+			return false
 		}
 	}
-	return api.OK
+	return true
+}
+
+// named reports whether a node's own name, if its Op is one of those that have meanings, stands for something, whatever its kids are.
+func (m meanings) named(n api.Node) bool {
+	switch n.Op {
+	case api.Var:
+		_, ok := m.vars[n.Name]
+		return ok || m.constant(n.Name)
+	case api.App:
+		_, ok := m.sigs[n.Name]
+		return ok
+	}
+	return true
 }
 
 func (m meanings) constant(name string) bool {
@@ -77,17 +80,25 @@ func (m meanings) sorted(n api.Node) api.Node {
 	return n
 }
 
-// argsFit reports whether the kids of all applications have the sorts that the sigs say. A sort of 0 takes every sort but SBool.
+// argsFit reports whether the kids of all applications have the number and the sorts that the sigs say.
 func (m meanings) argsFit(n api.Node) bool {
 	for _, k := range walk(n) {
-		if k.Op != api.App {
-			continue
+		if k.Op == api.App && !fitSig(k.Kids, m.sigs[k.Name]) {
+			return false
 		}
-		for i, want := range m.sigs[k.Name].Args {
-			sort := Sort(k.Kids[i])
-			if want != sort && (want != 0 || sort == api.SBool) {
-				return false
-			}
+	}
+	return true
+}
+
+// fitSig reports whether kids have the number and the sorts that a sig says. A sort of 0 takes every sort but SBool.
+func fitSig(kids []api.Node, s api.Sig) bool {
+	if len(kids) != len(s.Args) {
+		return false
+	}
+	for i, want := range s.Args {
+		sort := Sort(kids[i])
+		if want != sort && (want != 0 || sort == api.SBool) {
+			return false
 		}
 	}
 	return true

@@ -146,27 +146,32 @@ func TestResolveLimits(t *testing.T) {
 	}
 }
 
-// Names and numbers of kids are looked at in preorder, all of them ahead of whether the result is well sorted.
+// A name that is missing anywhere counts ahead of a wrong form anywhere (R2), be that the number of kids or another.
 func TestResolveOrder(t *testing.T) {
-	unknown, few := op(api.Le, raw("w"), num(1)), call("pred")
-	ill := op(api.Le, raw("s"), raw("l"))
-	parent := api.Node{Op: api.Var, Name: "p", Kids: []api.Node{raw("x")}}
-	constant := api.Node{Op: api.Var, Name: "yes", Kids: []api.Node{raw("x")}}
-	for _, c := range []struct {
-		n    api.Node
-		want api.Errno
-	}{
-		{op(api.And, unknown, few), api.ErrNone},
-		{op(api.And, few, unknown), api.ErrForm},
-		{call("pred", unknown, few), api.ErrForm},
-		{call("w", few), api.ErrNone},
-		{op(api.And, ill, unknown), api.ErrNone},
-		{op(api.And, unknown, ill), api.ErrNone},
-		{op(api.And, parent, unknown), api.ErrNone},
-		{op(api.And, constant, unknown), api.ErrNone},
-		{op(api.And, op(api.Le, call("len", raw("x")), num(1)), unknown), api.ErrNone},
-		{op(api.And, op(api.Eq, raw("both"), call("both")), unknown), api.ErrNone},
+	unknown, unsigned := op(api.Le, raw("w"), num(1)), op(api.Not, call("w"))
+	for _, wrong := range []api.Node{
+		call("pred"), call("pred", raw("p"), raw("p")), call("yes", raw("x")), op(api.Le, call("late"), num(1)),
+		op(api.Le, raw("s"), raw("l")), op(api.Le, raw("x")), op(99), hole(0),
+		{Op: api.Var, Name: "p", Kids: []api.Node{raw("x")}}, {Op: api.Var, Name: "yes", Kids: []api.Node{raw("x")}},
+		op(api.Le, call("len", raw("x")), num(1)), op(api.Eq, raw("both"), call("both")),
 	} {
-		expectError(t, c.n, c.want)
+		expectError(t, op(api.And, wrong, raw("p")), api.ErrForm)
+		expectError(t, op(api.And, wrong, unknown), api.ErrNone)
+		expectError(t, op(api.And, unknown, wrong), api.ErrNone)
+		expectError(t, op(api.Or, op(api.Not, wrong), unsigned), api.ErrNone)
+		wrong.Kids = append([]api.Node{unknown}, wrong.Kids...)
+		expectError(t, wrong, api.ErrNone)
 	}
+	for _, n := range []api.Node{
+		// the missing name stands in the application with the wrong number of kids, below it or above it
+		call("zero", raw("w")), call("len", raw("w"), raw("l")), call("len", raw("l"), call("any", raw("w"))),
+		call("w", call("len")), call("pred", unknown, call("pred")), call("late", call("late", raw("x"), raw("late"))),
+		op(api.Le, call("zero", num(1)), raw("w")), op(api.Le, raw("w"), call("zero", num(1))),
+		{Op: api.Var, Name: "x", Kids: []api.Node{raw("w")}}, {Op: api.Var, Name: "w", Kids: []api.Node{call("len")}},
+	} {
+		expectError(t, n, api.ErrNone)
+	}
+	expectError(t, op(api.Le, call("zero", num(1)), raw("x")), api.ErrForm)
+	// limits stand ahead of both
+	expectError(t, chain(api.Not, api.MaxNest, op(api.And, call("pred"), unknown)), api.ErrLimit)
 }
