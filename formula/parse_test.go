@@ -289,11 +289,13 @@ func TestParseOpenOrder(t *testing.T) {
 	for _, o := range openings() {
 		full := strings.Repeat(o.open, 90)
 		for _, rest := range []string{"", "@", ",", "1000000000001", strings.Repeat("b", api.MaxLong+1)} {
-			// whether `-` opens a level hangs on the token behind it: a wrong byte or number counts ahead
-			if o.open != "-" || rest != "@" && rest != "1000000000001" {
-				expectTooMuch(t, o.name, full+o.open+rest)
-			}
 			expectFault(t, full+rest, len(full))
+			if o.open == "-" && rest == "1000000000001" {
+				// a `-` of a negative number opens nothing
+				expectFault(t, full+o.open+rest, len(full)+1)
+				continue
+			}
+			expectTooMuch(t, o.name, full+o.open+rest)
 		}
 		expectFault(t, "x y "+full+o.open, 2)
 	}
@@ -301,12 +303,70 @@ func TestParseOpenOrder(t *testing.T) {
 	for _, rest := range []string{"-)", "-", "-x", "!@", "x => @", "x <=> )", "3 * @", "-3 * @", "f(@", "f( )", "cup(@"} {
 		expectTooMuch(t, rest, full+rest)
 	}
-	for rest, at := range map[string]int{"-@": 1, "-3 @": 3, "- 1000000000001 * x": 2, "1000000000001 * x": 0, "in (": 0, "x y (": 2, "1 (": 2, "cup @": 4,
+	for rest, at := range map[string]int{"-3 @": 3, "1000000000001 * x": 0, "1000000000001 * @": 0, "in (": 0, "x y (": 2, "1 (": 2, "cup @": 4,
 		strings.Repeat("b", api.MaxLong+1) + "(": 0} {
 		expectFault(t, full+rest, 90+at)
 	}
 	// the 9th argument is refused before it opens anything
 	expectFault(t, strings.Repeat("(", 89)+"f("+strings.Repeat("x,", 8)+"(", 89+2+16)
+}
+
+// dashes are texts of a `-`, with what may stand between it and the next token.
+func dashes() []string { return []string{"-", "- ", "-\t# 1 *\n"} }
+
+// A `-` before anything but a number opens a level, and that counts ahead of what it stands before.
+func TestParseMinusOrder(t *testing.T) {
+	for _, o := range openings() {
+		full, last := strings.Repeat(o.open, 90), strings.Repeat(o.open, 89)
+		for _, dash := range dashes() {
+			for _, rest := range []string{"", "@", "?", "&", "\xff", ")", ",", "*", "* 1", "=", "in", strings.Repeat("b", api.MaxLong+1)} {
+				expectTooMuch(t, o.name+", "+dash+rest, full+dash+rest)
+				expectFault(t, last+dash+rest, len(last+dash))
+			}
+			for _, rest := range []string{"x", "(", "-1", "- @", "-1000000000001", "-1000000000001 * x", "f(@)", "(1000000000001)"} {
+				expectTooMuch(t, o.name+", "+dash+rest, full+dash+rest)
+			}
+			for _, rest := range []string{"-@", "- 1 * x", "-1000000000001 * x", "-x", "3 * x", "3 * @"} {
+				expectTooMuch(t, o.name+", "+dash+rest, last+dash+rest)
+			}
+			expectFault(t, last+dash+"-1000000000001", len(last+dash)+1)
+			expectFault(t, last+dash+"1000000000001 * x", len(last+dash))
+		}
+	}
+	// between two operands it opens nothing
+	full := strings.Repeat("(", 90)
+	expectFault(t, full+"x - @", 94)
+	expectFault(t, full+"x - 1000000000001 * x", 94)
+	expectFault(t, full+"x - -1000000000001", 95)
+	expectTooMuch(t, "-1000000000001 * x behind a sum's -", full+"x - -1000000000001 * x")
+	expectTooMuch(t, "-@ behind a sum's -", full+"x - -@")
+}
+
+// Before a number, a `*` behind that number tells whether the `-` opens a level, whatever is wrong with the number.
+func TestParseMinusOfNumbers(t *testing.T) {
+	good := []string{"0", "7", "0000000000007", "1000000000000"}
+	bad := []string{"1000000000001", "9999999999999", "99999999999999", "00000000000007", strings.Repeat("9", 30)}
+	behind := []string{"", "@", "?", "&", "\xff", "x", "(", "!", "5", "1000000000001 * x"}
+	for _, o := range openings() {
+		full := strings.Repeat(o.open, 90)
+		for _, dash := range dashes() {
+			for _, number := range append(good, bad...) {
+				for _, star := range []string{"*", " * x", "*@", "# 2\n* )", "\t*\n-1000000000001"} {
+					expectTooMuch(t, o.name+", "+number+star, full+dash+number+star)
+				}
+			}
+			for _, rest := range behind {
+				for _, number := range bad {
+					expectFault(t, full+dash+number+" "+rest, len(full+dash))
+				}
+				for _, number := range good {
+					if rest != "" {
+						expectFault(t, full+dash+number+"# *\n"+rest, len(full+dash+number)+4)
+					}
+				}
+			}
+		}
+	}
 }
 
 func TestParseLimits(t *testing.T) {

@@ -2,6 +2,7 @@ package formula
 
 import (
 	"slices"
+	"strconv"
 
 	"quantale/api"
 	"quantale/logic"
@@ -9,6 +10,9 @@ import (
 
 // maxOpen is the greatest number of parentheses, prefix operators, and signs `=>` and `<=>` that are open at once.
 const maxOpen = 90
+
+// maxDigits is the greatest number of digits of a number.
+const maxDigits = 13
 
 // fault is what the parser panics with when a text is wrong.
 type fault struct {
@@ -142,32 +146,34 @@ func (p *parser) unary() api.Node {
 	if p.peek().kind != numberToken {
 		return p.primary()
 	}
-	num := p.take().num
-	if p.peek().text == "*" {
-		return p.multiple(num)
+	num := p.number()
+	if !p.accept("*") {
+		return api.Node{Op: api.Int, Num: num}
 	}
-	return api.Node{Op: api.Int, Num: num}
+	kid := p.inside(p.unary)
+	return api.Node{Op: api.Scale, Num: num, Kids: []api.Node{kid}}
 }
 
-// minus reads what `-` stands before. A number without `*` makes it part of that number, so that it opens nothing.
+// minus reads what `-` stands before. A number without `*` makes it part of that number, so that it opens nothing; before anything else it opens a level, and that counts ahead of all that is wrong behind it.
 func (p *parser) minus() api.Node {
-	operand := p.unary
-	if p.peek().kind == numberToken {
-		num := p.take().num
-		if p.peek().text != "*" {
-			return api.Node{Op: api.Int, Num: -num}
-		}
-		operand = func() api.Node { return p.multiple(num) }
+	if p.plainNumber() {
+		return api.Node{Op: api.Int, Num: -p.number()}
 	}
-	kid := p.inside(operand)
+	kid := p.inside(p.unary)
 	return node(api.Neg, kid)
 }
 
-// multiple reads `*` and what is multiplied.
-func (p *parser) multiple(num int64) api.Node {
-	p.expect("*")
-	kid := p.inside(p.unary)
-	return api.Node{Op: api.Scale, Num: num, Kids: []api.Node{kid}}
+// number takes a number and returns its value.
+func (p *parser) number() int64 {
+	t := p.take()
+	if len(t.text) > maxDigits {
+		refuse(t)
+	}
+	num, err := strconv.ParseInt(t.text, 10, 64)
+	if err != nil || num > api.MaxNum {
+		refuse(t)
+	}
+	return num
 }
 
 // primary reads what begins with a name, a word or a parenthesis.

@@ -1,11 +1,6 @@
 package formula
 
-import (
-	"strconv"
-	"strings"
-
-	"quantale/api"
-)
+import "strings"
 
 // Kinds of tokens.
 const (
@@ -15,21 +10,17 @@ const (
 	signToken
 )
 
-// maxDigits is the greatest number of digits of a number.
-const maxDigits = 13
-
-// token is a token at its offset: its text (empty at the end of the text), and the value of a number.
+// token is a token at its offset. A byte that begins none is a sign without text, which can follow nowhere.
 type token struct {
 	kind int
 	at   int
 	text string
-	num  int64
 }
 
 // signs are tried in this order: the longest that fits is taken.
 var signs = [...]string{"<=>", "=>", "<=", ">=", "!=", "&&", "||", "(", ")", ",", "+", "-", "*", "=", "<", ">", "!"}
 
-// scanner cuts a text into tokens. It reads a token only when that is needed, so that what is wrong with it comes behind what the parser meets first.
+// scanner cuts a text into tokens, right or wrong. What is wrong with one is for the parser to refuse where it needs that token, so that it comes behind what the parser meets first.
 type scanner struct {
 	text  string
 	at    int
@@ -69,6 +60,13 @@ func (s *scanner) expect(text string) {
 	}
 }
 
+// plainNumber reports whether a number comes next that no `*` follows. A copy looks ahead; the scanner stays where it is.
+func (s *scanner) plainNumber() bool {
+	ahead := *s
+	first := ahead.take()
+	return first.kind == numberToken && ahead.peek().text != "*"
+}
+
 func (s *scanner) scan() token {
 	s.skip()
 	t := token{at: s.at}
@@ -84,7 +82,7 @@ func (s *scanner) scan() token {
 		t.kind, t.text = signToken, signAt(rest)
 	}
 	s.at += len(t.text)
-	return valid(t)
+	return t
 }
 
 // skip goes on behind blanks and comments.
@@ -98,21 +96,6 @@ func (s *scanner) skip() {
 		}
 		s.at += span(rest[blanks:], inLine)
 	}
-}
-
-// valid returns a token with its value, and refuses one that no text may have. Whether a name is one is seen where it stands.
-func valid(t token) token {
-	if t.text == "" || t.kind == numberToken && len(t.text) > maxDigits {
-		refuse(t)
-	}
-	if t.kind == numberToken {
-		num, err := strconv.ParseInt(t.text, 10, 64)
-		if err != nil || num > api.MaxNum {
-			refuse(t)
-		}
-		t.num = num
-	}
-	return t
 }
 
 // signAt returns the sign that a text begins with, empty if it begins with none.
