@@ -118,16 +118,15 @@ func says(n api.Node, truth bool) bool {
 	return false
 }
 
-// literalForm returns the form of the constraint that a formula says, and false if it or one on the way is not valid.
+// literalForm returns the form of the constraint that a formula says, and false if it or one on the way to that of a side is not valid.
 func literalForm(n api.Node, truth bool) (api.Lin, bool) {
 	less, more := n.Kids[0], n.Kids[1]
 	if !truth {
 		less, more = more, less
 	}
-	f, ok := joined(less, more, -1)
 	// Among integers, one that is less than another one is so by at least 1.
-	if strict := (n.Op == api.Lt) == truth; ok && strict {
-		return combine(f, api.Lin{Const: 1}, 1, 1)
+	if strict := (n.Op == api.Lt) == truth; strict {
+		return joined(less, more, -1, 1)
 	}
-	return f, ok
+	return joined(less, more, -1, 0)
 }

@@ -181,7 +181,7 @@ func TestFromLiteralGreatNumbers(t *testing.T) {
 			expectSilent(t, node(op, y, beyond), true, api.ErrLimit)
 			expectSilent(t, node(op, beyond, beyond), true, api.ErrLimit)
 			expectSilent(t, node(op, most, scale(-1, c.leaf)), true, api.ErrLimit)
-			expectSilent(t, node(op, scale(-1, most), c.leaf), true, api.ErrLimit)
+			expectSilent(t, node(op, scale(-1, most), scale(2, c.leaf)), true, api.ErrLimit)
 		}
 		for _, op := range []int{api.Le, api.Lt} {
 			expectSilent(t, node(op, beyond, y), false, api.ErrLimit)
@@ -194,13 +194,52 @@ func TestFromLiteralGreatNumbers(t *testing.T) {
 		expectSays(t, node(api.Le, most, num(0)), true, atMost(c.of(great)))
 		expectSays(t, node(api.Lt, num(0), most), false, atMost(c.of(great)))
 	}
-	// The 1 that is added may be too much.
+}
+
+// The constraint's own numbers count, with the 1 that is added: it may be too much, and it may be what makes the constraint valid.
+func TestFromLiteralOfStrictConstraints(t *testing.T) {
 	most := scale(1<<26, scale(1<<27, num(1)))
-	expectSilent(t, node(api.Lt, most, num(0)), true, api.ErrLimit)
-	expectSilent(t, node(api.Le, num(0), most), false, api.ErrLimit)
-	expectSays(t, node(api.Lt, most, num(1)), true, atMost(lin(great)))
-	expectSays(t, node(api.Le, num(1), most), false, atMost(lin(great)))
-	expectSays(t, node(api.Lt, num(0), most), true, atMost(lin(1-great)))
+	least := scale(-1, most)
+	for _, c := range []struct {
+		less, more api.Node
+		want       api.Con
+		e          api.Errno
+	}{
+		{most, num(0), api.Con{}, api.ErrLimit},
+		{most, num(1), atMost(lin(great)), api.OK},
+		{num(0), most, atMost(lin(1 - great)), api.OK},
+		{least, num(0), atMost(lin(1 - great)), api.OK},
+		{least, num(1), atMost(lin(-great)), api.OK},
+		{num(-1), most, atMost(lin(-great)), api.OK},
+		{least, num(2), api.Con{}, api.ErrLimit},
+		{num(-2), most, api.Con{}, api.ErrLimit},
+		{least, most, api.Con{}, api.ErrLimit},
+		{node(api.Add, x, least), node(api.Add, num(1), y), atMost(lin(-great, mono(1, x), mono(-1, y))), api.OK},
+		{node(api.Add, least, scale(-1, x)), node(api.Sub, num(1), x), atMost(lin(-great)), api.OK},
+		{node(api.Add, x, least), node(api.Add, num(2), y), api.Con{}, api.ErrLimit},
+		// Neither are coefficients saved by the 1, nor a side that is too great, whatever the other one is.
+		{node(api.Add, scale(-great>>20, scale(1<<20, x)), least), node(api.Add, x, num(1)), api.Con{}, api.ErrLimit},
+		{node(api.Sub, least, num(1)), num(0), api.Con{}, api.ErrLimit},
+		{node(api.Sub, least, num(1)), num(-1), api.Con{}, api.ErrLimit},
+		{num(0), node(api.Add, most, num(1)), api.Con{}, api.ErrLimit},
+	} {
+		for n, truth := range map[*api.Node]bool{{Op: api.Lt, Kids: []api.Node{c.less, c.more}}: true, {Op: api.Le, Kids: []api.Node{c.more, c.less}}: false} {
+			if c.e == api.OK {
+				expectSays(t, *n, truth, c.want)
+			} else {
+				expectSilent(t, *n, truth, c.e)
+			}
+		}
+	}
+	// What is not strict has no 1.
+	expectSilent(t, node(api.Le, least, num(1)), true, api.ErrLimit)
+	expectSilent(t, node(api.Lt, num(1), least), false, api.ErrLimit)
+	expectSilent(t, node(api.Eq, least, num(1)), true, api.ErrLimit)
+	expectSays(t, node(api.Le, least, num(0)), true, atMost(lin(-great)))
+	expectSays(t, node(api.Lt, num(0), least), false, atMost(lin(-great)))
+	// The form of a term is looked at on the way, too.
+	expectNoOf(t, node(api.Add, node(api.Sub, least, num(1)), num(1)), api.ErrLimit)
+	expectOf(t, node(api.Sub, least, num(0)), lin(-great))
 }
 
 func TestConstraintsShareNothing(t *testing.T) {

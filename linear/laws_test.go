@@ -457,3 +457,41 @@ func TestFromLiteralLaws(t *testing.T) {
 		t.Errorf("only %d constraints", seen)
 	}
 }
+
+// greatTerm returns a term whose numbers are at the bounds of forms, or near them.
+func (r *source) greatTerm() api.Node {
+	n := scale([]int64{1, -1}[r.below(2)], scale(1<<26, scale(1<<27, []api.Node{num(1), x}[r.below(2)])))
+	if r.below(3) == 0 {
+		n = num(r.small(2))
+	}
+	for range r.below(3) {
+		n = node([]int{api.Add, api.Sub}[r.below(2)], n, []api.Node{num(r.small(2)), x}[r.below(2)])
+	}
+	return n
+}
+
+func TestFromLiteralLimitLaws(t *testing.T) {
+	r := &source{state: 7}
+	seen := map[api.Errno]int{}
+	least := 0
+	for range 6000 {
+		n, truth := node([]int{api.Eq, api.Le, api.Lt}[r.below(3)], r.greatTerm(), r.greatTerm()), r.below(2) == 0
+		if n.Op == api.Eq && !truth {
+			continue
+		}
+		want, fits := plainLiteral(n, truth)
+		got, ok, e := linear.FromLiteral(n, truth)
+		seen[e]++
+		switch {
+		case !fits && (e != api.ErrLimit || ok || len(got) != 0):
+			t.Fatalf("P4.3: FromLiteral(%v, %v) is %v, %v, %d, not ErrLimit", n, truth, got, ok, e)
+		case fits && (e != api.OK || !ok || len(got) != 1 || !sameCon(got[0], want)):
+			t.Fatalf("P4.3: FromLiteral(%v, %v) is %v, %v, %d, not %v", n, truth, got, ok, e, want)
+		case fits && want.Form.Const == -great:
+			least++
+		}
+	}
+	if seen[api.OK] < 500 || seen[api.ErrLimit] < 500 || least < 50 {
+		t.Errorf("too few of a kind: %v, %d of the least constant", seen, least)
+	}
+}

@@ -89,6 +89,29 @@ func plainTerm(n api.Node) (plain, bool) {
 	return p, ok
 }
 
+// plainLiteral returns what an Eq that is true, an Le or an Lt says, and false if that is too great.
+func plainLiteral(n api.Node, truth bool) (api.Con, bool) {
+	a, okA := plainTerm(n.Kids[0])
+	b, okB := plainTerm(n.Kids[1])
+	if !truth {
+		a, b = b, a
+	}
+	p := newPlain()
+	p.add(a, big.NewInt(1))
+	p.add(b, big.NewInt(-1))
+	if n.Op == api.Lt && truth || n.Op == api.Le && !truth {
+		p.rest.Add(p.rest, big.NewInt(1))
+	}
+	f, ok := p.lin()
+	if !okA || !okB || !ok {
+		return api.Con{}, false
+	}
+	if n.Op == api.Eq {
+		return zero(f), true
+	}
+	return atMost(f), true
+}
+
 // plainAdd is Add of valid forms.
 func plainAdd(a, b api.Lin, p, q int64) (api.Lin, api.Errno) {
 	sum := newPlain()
