@@ -2,14 +2,8 @@ package linear
 
 import "quantale/api"
 
-const (
-	// maxCons is the greatest number of constraints that a derivation may refute.
-	maxCons = 2000
-	// maxSteps is the greatest number of steps and splits of a derivation.
-	maxSteps = 2000
-	// maxDeep is the greatest number of derivations that lie within each other.
-	maxDeep = 60
-)
+// maxCons is the greatest number of constraints that a derivation may refute.
+const maxCons = 2000
 
 // Step returns the rounded sum of the multiples of constraints.
 func Step(cons []api.Con, s []api.Mult) (api.Con, api.Errno) {
@@ -62,29 +56,11 @@ func Refutes(cons []api.Con, d api.Deriv) (bool, api.Errno) {
 	switch {
 	case len(cons) > maxCons || !allValid(cons):
 		return false, api.ErrForm
-	case spare(d, 1, maxSteps) < 0:
+	case !within(d):
 		return false, api.ErrLimit
 	}
 	// What stands behind the constraints in memory is not written over.
 	return refutes(cons[:len(cons):len(cons)], d), api.OK
-}
-
-// spare returns how many of the steps and splits that are left a derivation at a depth does not take; it is negative if they are too few, or the derivation too deep. One that has kids counts as a split whatever it says: so a count ends soon even if kids share their parts.
-func spare(d api.Deriv, deep, left int) int {
-	if deep > maxDeep {
-		return -1
-	}
-	left -= len(d.Steps)
-	if d.Split || len(d.Kids) > 0 {
-		left--
-	}
-	for _, k := range d.Kids {
-		if left < 0 {
-			break
-		}
-		left = spare(k, deep+1, left)
-	}
-	return left
 }
 
 // refutes is Refutes over constraints that are known to be valid; it may write behind them.

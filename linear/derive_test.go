@@ -309,19 +309,82 @@ func TestRefutesLimits(t *testing.T) {
 	expectRefutes(t, bad, steps(long), true)
 }
 
-// A derivation that shares its parts is small in memory, but not in splits: Refutes must not walk through all of it.
+// A split is a derivation whose Split is true: kids without it are of another form, and count as nothing.
+func TestRefutesCountsTrueSplits(t *testing.T) {
+	bad := []api.Con{zero(lin(1))}
+	one := step(mult(0, 1))
+	all := steps(many(1000, one)...)
+	f := lin(0, mono(1, x))
+	pair := api.Deriv{Kids: []api.Deriv{{}}}
+	var pairs []api.Deriv
+	for range 5000 {
+		pairs = append(pairs, pair)
+	}
+	for k, d := range []api.Deriv{
+		{Steps: many(2000, one), Kids: []api.Deriv{{}}}, {Steps: many(2000, one), Form: f, Kids: []api.Deriv{pair, pair}}, {Steps: many(1000, one), Kids: []api.Deriv{all}}, {Kids: []api.Deriv{all, pair, all, {}}}, {Kids: pairs},
+		{Steps: many(1999, one), Split: true, Form: f, Kids: []api.Deriv{pair, pair}}, {Split: true, Form: f, Kids: []api.Deriv{{Kids: []api.Deriv{all}}, {Steps: many(999, one), Kids: pairs}}},
+		split(f, steps(one), api.Deriv{Steps: many(1998, one), Kids: []api.Deriv{{}}}),
+	} {
+		if got, e := linear.Refutes(bad, d); got || e != api.OK {
+			t.Errorf("P4.4: case %d: %v, %d, not false and OK", k, got, e)
+		}
+	}
+	for k, d := range []api.Deriv{
+		{Steps: many(2001, one), Kids: []api.Deriv{{}}}, {Steps: many(1001, one), Kids: []api.Deriv{all}}, {Kids: []api.Deriv{all, pair, all, steps(one)}}, {Kids: append(pairs[:5000:5000], all, all, api.Deriv{Split: true})},
+		{Steps: many(2000, one), Split: true, Form: f, Kids: []api.Deriv{pair, pair}}, {Split: true, Form: f, Kids: []api.Deriv{{Kids: []api.Deriv{all}}, {Steps: many(1000, one), Kids: pairs}}},
+		{Steps: many(1000, one), Kids: []api.Deriv{{Steps: many(1000, one), Split: true}}}, {Kids: []api.Deriv{{Kids: []api.Deriv{{Split: true, Kids: []api.Deriv{all, all}}}}}},
+	} {
+		if got, e := linear.Refutes(bad, d); got || e != api.ErrLimit {
+			t.Errorf("P4.4: too many, case %d: %v, %d, not ErrLimit", k, got, e)
+		}
+	}
+}
+
+// doubling nests derivations, each with two kids that are the same in memory.
+func doubling(levels int, d api.Deriv) api.Deriv {
+	for range levels {
+		d = api.Deriv{Kids: []api.Deriv{d, d}}
+	}
+	return d
+}
+
+// A derivation that shares its parts is small in memory, but not in all: Refutes must not walk through all of it.
 func TestRefutesOfSharedParts(t *testing.T) {
 	bad := []api.Con{zero(lin(1))}
-	d := steps(step(mult(0, 1)))
-	flat := api.Deriv{}
+	one := step(mult(0, 1))
+	f := lin(0, mono(1, x))
+	d := steps(one)
 	for range 55 {
-		d = split(lin(0, mono(1, x)), d, d)
-		flat = api.Deriv{Kids: []api.Deriv{flat, flat}}
+		d = split(f, d, d)
 	}
+	// What is expected here prints no derivation: there would be no end to it.
 	expectNoRefutes(t, "P4.4, R1", bad, d, api.ErrLimit)
-	if got, _ := linear.Refutes(bad, flat); got {
-		t.Error("P4.4, R1: a derivation of another form")
+	expectNoRefutes(t, "P4.4, R1", bad, doubling(59, api.Deriv{}), api.OK)
+	expectNoRefutes(t, "P4.4, R1", bad, doubling(60, api.Deriv{}), api.ErrLimit)
+	expectNoRefutes(t, "P4.4, R1", bad, doubling(59, steps(one)), api.ErrLimit)
+	expectNoRefutes(t, "P4.4, R1", bad, doubling(59, api.Deriv{Split: true}), api.ErrLimit)
+	// Each of what is shared counts, wherever it stands: 1024 steps and 2048; 60 deep and 61.
+	expectNoRefutes(t, "P4.4, R1", bad, doubling(10, steps(one)), api.OK)
+	expectNoRefutes(t, "P4.4, R1", bad, doubling(11, steps(one)), api.ErrLimit)
+	expectNoRefutes(t, "P4.4, R1", bad, doubling(10, doubling(40, api.Deriv{Kids: []api.Deriv{{}, {}}})), api.OK)
+	flat := doubling(29, api.Deriv{})
+	deep := flat
+	for range 30 {
+		deep = api.Deriv{Kids: []api.Deriv{flat, deep}}
 	}
+	expectNoRefutes(t, "P4.4, R1", bad, deep, api.OK)
+	expectNoRefutes(t, "P4.4, R1", bad, api.Deriv{Kids: []api.Deriv{flat, deep}}, api.ErrLimit)
+	expectNoRefutes(t, "P4.4, R1", bad, api.Deriv{Kids: []api.Deriv{deep, flat}}, api.ErrLimit)
+	// One list and what it begins with are two.
+	kids := []api.Deriv{{}, {}, steps(many(1500, one)...)}
+	expectNoRefutes(t, "P4.4, R1", bad, api.Deriv{Kids: []api.Deriv{{Kids: kids[:2]}, {Kids: kids}, {Kids: kids[:1]}}}, api.OK)
+	expectNoRefutes(t, "P4.4, R1", bad, api.Deriv{Kids: []api.Deriv{{Kids: kids[:2]}, {Kids: kids}, {Kids: kids[:2]}, {Kids: kids[1:]}}}, api.ErrLimit)
+	// One that lies in itself is deeper than all.
+	round := make([]api.Deriv, 2)
+	round[0].Kids, round[1].Kids = flat.Kids, round
+	expectNoRefutes(t, "P4.4, R1", bad, round[1], api.ErrLimit)
+	round[0].Kids = round
+	expectNoRefutes(t, "P4.4, R1", bad, round[0], api.ErrLimit)
 }
 
 func TestRefutesErrors(t *testing.T) {

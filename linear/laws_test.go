@@ -495,3 +495,54 @@ func TestFromLiteralLimitLaws(t *testing.T) {
 		t.Errorf("too few of a kind: %v, %d of the least constant", seen, least)
 	}
 }
+
+// shape returns a derivation of any form, mostly of another than one that refutes: some parts of it are the same in memory.
+func (r *source) shape(levels int, shared []api.Deriv) api.Deriv {
+	d := api.Deriv{Split: r.below(3) == 0}
+	if r.below(3) == 0 {
+		d.Steps = make([][]api.Mult, r.below(90))
+	}
+	for range r.below(4) {
+		if k := r.below(2 * len(shared)); k < len(shared) {
+			d.Kids = append(d.Kids, shared[k])
+		} else if levels > 1 {
+			d.Kids = append(d.Kids, r.shape(levels-1, shared))
+		}
+	}
+	return d
+}
+
+func TestRefutesLimitLaws(t *testing.T) {
+	r := &source{state: 8}
+	seen := map[string]int{}
+	for range 2000 {
+		shared := []api.Deriv{{}}
+		for range 3 {
+			shared = append(shared, r.shape(2, shared))
+		}
+		d := r.shape(2+r.below(4), shared)
+		for range r.below(62) {
+			d = api.Deriv{Kids: []api.Deriv{d, shared[r.below(len(shared))]}}
+		}
+		count, deep := plainSize(d)
+		want := api.OK
+		if count > 2000 || deep > 60 {
+			want = api.ErrLimit
+		}
+		got, e := linear.Refutes(nil, d)
+		if got || e != want {
+			t.Fatalf("P4.4: %d steps and splits, %d deep: %v, %d", count, deep, got, e)
+		}
+		switch {
+		case want == api.OK:
+			seen["none"]++
+		case count <= 2000:
+			seen["deep"]++
+		case deep <= 60:
+			seen["many"]++
+		}
+	}
+	if seen["none"] < 300 || seen["deep"] < 50 || seen["many"] < 200 {
+		t.Errorf("too few of a kind: %v", seen)
+	}
+}

@@ -171,6 +171,19 @@ func plainStep(cons []api.Con, s []api.Mult) (api.Con, api.Errno) {
 	return plainRound(api.Con{Form: f, Rel: rel}), api.OK
 }
 
+// plainSize counts the steps and splits of a derivation, and those that lie within each other.
+func plainSize(d api.Deriv) (count, deep int) {
+	count = len(d.Steps)
+	if d.Split {
+		count++
+	}
+	for _, k := range d.Kids {
+		n, levels := plainSize(k)
+		count, deep = count+n, max(deep, levels)
+	}
+	return count, deep + 1
+}
+
 // plainRefutes is Refutes over constraints that are valid, for derivations within the limits, the forms of whose splits are valid.
 func plainRefutes(cons []api.Con, d api.Deriv) bool {
 	all := slices.Clone(cons)
