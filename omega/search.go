@@ -11,8 +11,8 @@ const (
 	maxSteps = 2000
 	// maxDeep is the greatest number of derivations that lie within each other.
 	maxDeep = 60
-	// maxSplinters is the greatest coefficient for which a gap is closed by splinters.
-	maxSplinters = 8
+	// maxSplinters is the greatest coefficient for which a gap is closed by making its rows narrower. Up to it, that is sure to end for two atoms.
+	maxSplinters = 4
 )
 
 // search looks for a solution of rows over atoms, or for a derivation of a contradiction.

@@ -4,6 +4,7 @@ import (
 	"testing"
 
 	"quantale/api"
+	"quantale/linear"
 	"quantale/omega"
 )
 
@@ -39,6 +40,11 @@ func TestSolve(t *testing.T) {
 		// A triangle around (1/2, 1/2) without integers, and one with them.
 		{list(atMost(over(1, -4, 2)), atMost(over(1, 2, -4)), atMost(over(-3, 3, 2))), false},
 		{list(atMost(over(0, -4, 2)), atMost(over(0, 2, -4)), atMost(over(-5, 3, 2))), true},
+		// The first of them for x + z and y + z: no atom has a bound.
+		{list(atMost(over(1, -4, 2, -2)), atMost(over(1, 2, -4, -2)), atMost(over(-3, 3, 2, 5))), false},
+		{list(atMost(over(0, -4, 2, -2)), atMost(over(0, 2, -4, -2)), atMost(over(-5, 3, 2, 5))), true},
+		// A coefficient beyond those of small ones.
+		{list(atMost(over(30, -70, 41)), atMost(over(30, 41, -70)), atMost(over(-30, 31, 23))), false},
 		// Euclid needs several changes.
 		{list(zero(over(-1, 17, 12, 31)), atMost(over(2, 0, 0, -1))), true},
 		{list(zero(over(-1, 10, 15, 6)), zero(over(0, 14, -21, 35))), true},
@@ -163,32 +169,35 @@ func TestSolveGivesUp(t *testing.T) {
 	}
 }
 
+// narrow says that two atoms are between lines; with wide 0, there are no integers between them.
+func narrow(atoms []api.Node, wide int64) []api.Con {
+	a, b := atoms[0], atoms[1]
+	return list(atMost(lin(6-6*wide, mono(3, a), mono(4, b))), atMost(lin(-12, mono(-4, a), mono(-3, b))), atMost(lin(-4, mono(-1, a))), atMost(lin(1, mono(-1, b))))
+}
+
 func TestSolveSharesNothing(t *testing.T) {
-	f := call("f", api.SInt, call("g", api.SInt, x))
 	g := call("g", api.SInt, x)
-	make2 := func(rest int64) []api.Con {
-		return list(atMost(lin(rest, mono(2, f), mono(-4, g))), atMost(lin(rest, mono(-4, f), mono(2, g))), atMost(lin(-3*rest, mono(2, f), mono(3, g))))
-	}
-	for _, rest := range []int64{0, 1} {
-		cons := make2(rest)
+	both := []api.Node{call("f", api.SInt, g), g}
+	for wide := range int64(2) {
+		cons := narrow(both, wide)
 		var a answers
 		_, _, sat, _ := a.ask(t, cons)
-		if sat != (rest == 0) {
-			t.Fatalf("P5.2: %v", sat)
-		}
 		atoms, nums, d, _, _ := omega.Solve(cons)
+		if sat != (wide == 1) || !sat && !d.Split {
+			t.Fatalf("P5.2: %v, split: %v", sat, d.Split)
+		}
 		spoilDeriv(d)
 		for i := range atoms {
 			spoilNode(atoms[i])
 			atoms[i], nums[i] = node(99), 99
 		}
-		if again, _, now, _ := a.ask(t, cons); now != sat || sat && !sameNodes(again, []api.Node{call("f", api.SInt, g), g}) {
-			t.Error("R3: Solve shares memory")
-		}
-		for i, c := range make2(rest) {
-			if cons[i].Rel != c.Rel || cons[i].Form.Const != c.Form.Const || !sameNodes([]api.Node{cons[i].Form.Monos[0].Atom, cons[i].Form.Monos[1].Atom}, []api.Node{c.Form.Monos[0].Atom, c.Form.Monos[1].Atom}) || cons[i].Form.Monos[0].Coef != c.Form.Monos[0].Coef {
-				t.Error("R3: Solve changes its arguments")
+		g := call("g", api.SInt, x)
+		fresh := narrow([]api.Node{call("f", api.SInt, g), g}, wide)
+		for i, c := range fresh {
+			if !linear.Equal(c.Form, cons[i].Form) || c.Rel != cons[i].Rel {
+				t.Error("R3: Solve shares memory with its arguments, or changes them")
 			}
 		}
+		a.ask(t, cons)
 	}
 }
